@@ -1,0 +1,51 @@
+// Package phrases: messages with plural forms: see DOC.md.
+package phrases
+
+import (
+	"phrases/api"
+	"phrases/locale"
+	"phrases/number"
+)
+
+// Program is what a pattern, or bytes, became in a locale.
+type Program struct{}
+
+// Number writes a number (P4).
+func Number(s string, l api.Locale) (string, error) {
+	to, err := locale.New(l)
+	if err != nil {
+		return "", err
+	}
+	n, err := number.Parse(s)
+	if err != nil {
+		return "", err
+	}
+	return to.Write(n), nil
+}
+
+// Category tells a number's category (P7).
+func Category(rules []api.Rule, s string) (string, error) { return "", nil }
+
+// Choose chooses by a number's category (P7).
+func Choose[T any](rules []api.Rule, s string, of map[string]T) (v T, err error) { return v, nil }
+
+// Canon writes a pattern in its one form (P10).
+func Canon(p string) (string, error) { return "", nil }
+
+// Each goes through a pattern's arguments (P11).
+func Each(p string, yield func(name string, at int) bool) error { return nil }
+
+// Compile makes a program (P12).
+func Compile(p string, l api.Locale) (*Program, error) { return nil, nil }
+
+// Format says what a program makes of arguments (P13).
+func (x *Program) Format(args map[string]api.Value) (string, error) { return "", nil }
+
+// FormatBy says what a program makes of what it asks for (P15).
+func (x *Program) FormatBy(get func(name string) (api.Value, bool)) (string, error) { return "", nil }
+
+// Save tells a program's bytes (P17).
+func (x *Program) Save() []byte { return nil }
+
+// Load makes a program of bytes (P17).
+func Load(b []byte, l api.Locale) (*Program, error) { return nil, nil }
