@@ -7,6 +7,7 @@ import (
 
 	"phrases/api"
 	"phrases/number"
+	"phrases/plural"
 )
 
 // Locale is a locale that was found right. It holds nothing of the one that was handed in, whose owner may write into its lists.
@@ -19,7 +20,7 @@ type Locale struct {
 // New checks a locale and makes it ready: ErrLocale, if it is none.
 func New(l api.Locale) (Locale, error) {
 	digits, ok := digitsOf(l.Digits)
-	if !ok || !hasSigns(l) || l.First > api.MaxGroup || l.Next > api.MaxGroup {
+	if !ok || !hasSigns(l) || !hasRules(l) || l.First > api.MaxGroup || l.Next > api.MaxGroup {
 		return Locale{}, api.ErrLocale
 	}
 	first, next := groupsOf(l)
@@ -30,6 +31,12 @@ func hasSigns(l api.Locale) bool {
 	return l.Minus != 0 && utf8.ValidRune(l.Minus) &&
 		l.Point != 0 && utf8.ValidRune(l.Point) &&
 		utf8.ValidRune(l.Group)
+}
+
+func hasRules(l api.Locale) bool {
+	_, cardinal := plural.New(l.Cardinal)
+	_, ordinal := plural.New(l.Ordinal)
+	return cardinal == nil && ordinal == nil
 }
 
 // groupsOf tells how long groups are, so that writing needn't ask again what a 0 stands for.

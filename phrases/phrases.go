@@ -5,6 +5,7 @@ import (
 	"phrases/api"
 	"phrases/locale"
 	"phrases/number"
+	"phrases/plural"
 )
 
 // Program is what a pattern, or bytes, became in a locale.
@@ -24,10 +25,32 @@ func Number(s string, l api.Locale) (string, error) {
 }
 
 // Category tells a number's category (P7).
-func Category(rules []api.Rule, s string) (string, error) { return "", nil }
+func Category(rules []api.Rule, s string) (string, error) {
+	by, err := plural.New(rules)
+	if err != nil {
+		return "", err
+	}
+	n, err := number.Parse(s)
+	if err != nil {
+		return "", err
+	}
+	return by.Category(n), nil
+}
 
 // Choose chooses by a number's category (P7).
-func Choose[T any](rules []api.Rule, s string, of map[string]T) (v T, err error) { return v, nil }
+func Choose[T any](rules []api.Rule, s string, of map[string]T) (v T, err error) {
+	category, err := Category(rules, s)
+	if err != nil {
+		return v, err
+	}
+	if v, ok := of[category]; ok {
+		return v, nil
+	}
+	if v, ok := of[plural.Other]; ok {
+		return v, nil
+	}
+	return v, api.ErrNone
+}
 
 // Canon writes a pattern in its one form (P10).
 func Canon(p string) (string, error) { return "", nil }
