@@ -5,6 +5,7 @@ import (
 	"phrases/api"
 	"phrases/locale"
 	"phrases/number"
+	"phrases/pattern"
 	"phrases/plural"
 )
 
@@ -53,10 +54,38 @@ func Choose[T any](rules []api.Rule, s string, of map[string]T) (v T, err error)
 }
 
 // Canon writes a pattern in its one form (P10).
-func Canon(p string) (string, error) { return "", nil }
+func Canon(p string) (string, error) {
+	m, err := pattern.New(p)
+	if err != nil {
+		return "", err
+	}
+	return pattern.Canon(m), nil
+}
 
 // Each goes through a pattern's arguments (P11).
-func Each(p string, yield func(name string, at int) bool) error { return nil }
+func Each(p string, yield func(name string, at int) bool) error {
+	m, err := pattern.New(p)
+	if err != nil {
+		return err
+	}
+	for a := range pattern.Arguments(m) {
+		more, err := hand(a, yield)
+		if err != nil || !more {
+			return err
+		}
+	}
+	return nil
+}
+
+// hand calls a function that may panic, or be nil: ErrGet, then.
+func hand(a pattern.Argument, yield func(name string, at int) bool) (more bool, err error) {
+	defer func() {
+		if recover() != nil {
+			more, err = false, api.ErrGet
+		}
+	}()
+	return yield(a.Name, a.At), nil
+}
 
 // Compile makes a program (P12).
 func Compile(p string, l api.Locale) (*Program, error) { return nil, nil }

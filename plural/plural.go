@@ -47,6 +47,9 @@ func mayHaveRule(category string) bool {
 	return false
 }
 
+// IsCategory tells of all six words.
+func IsCategory(word string) bool { return word == Other || mayHaveRule(word) }
+
 // conditionOf makes a function of what a rule has for its When.
 func conditionOf(when string) (condition, error) {
 	// What is behind the `@` is passed over, but its bytes count.
