@@ -1,4 +1,4 @@
-// Package locale checks locales (P3) and writes numbers as they have it (P4).
+// Package locale checks locales (P3), writes numbers as they have it (P4) and tells categories by their rules.
 package locale
 
 import (
@@ -15,28 +15,36 @@ type Locale struct {
 	minus, point, group rune
 	first, next         int // first 0: there are no groups; next is never 0 beside another first
 	digits              [10]rune
+	cardinal, ordinal   plural.Rules
 }
 
 // New checks a locale and makes it ready: ErrLocale, if it is none.
 func New(l api.Locale) (Locale, error) {
 	digits, ok := digitsOf(l.Digits)
-	if !ok || !hasSigns(l) || !hasRules(l) || l.First > api.MaxGroup || l.Next > api.MaxGroup {
+	if !ok || !hasSigns(l) || l.First > api.MaxGroup || l.Next > api.MaxGroup {
+		return Locale{}, api.ErrLocale
+	}
+	cardinal, err := plural.New(l.Cardinal)
+	if err != nil {
+		return Locale{}, api.ErrLocale
+	}
+	ordinal, err := plural.New(l.Ordinal)
+	if err != nil {
 		return Locale{}, api.ErrLocale
 	}
 	first, next := groupsOf(l)
-	return Locale{minus: l.Minus, point: l.Point, group: l.Group, first: first, next: next, digits: digits}, nil
+	return Locale{
+		minus: l.Minus, point: l.Point, group: l.Group,
+		first: first, next: next,
+		digits:   digits,
+		cardinal: cardinal, ordinal: ordinal,
+	}, nil
 }
 
 func hasSigns(l api.Locale) bool {
 	return l.Minus != 0 && utf8.ValidRune(l.Minus) &&
 		l.Point != 0 && utf8.ValidRune(l.Point) &&
 		utf8.ValidRune(l.Group)
-}
-
-func hasRules(l api.Locale) bool {
-	_, cardinal := plural.New(l.Cardinal)
-	_, ordinal := plural.New(l.Ordinal)
-	return cardinal == nil && ordinal == nil
 }
 
 // groupsOf tells how long groups are, so that writing needn't ask again what a 0 stands for.
@@ -92,3 +100,9 @@ func (l Locale) Write(n number.Number) string {
 func (l Locale) endsGroup(left int) bool {
 	return l.first != 0 && left >= l.first && (left-l.first)%l.next == 0
 }
+
+// Cardinal tells a number's category by the cardinal rules.
+func (l Locale) Cardinal(n number.Number) string { return l.cardinal.Category(n) }
+
+// Ordinal tells a number's category by the ordinal rules.
+func (l Locale) Ordinal(n number.Number) string { return l.ordinal.Category(n) }

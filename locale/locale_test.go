@@ -2,6 +2,7 @@ package locale
 
 import (
 	"errors"
+	"reflect"
 	"strings"
 	"testing"
 
@@ -67,7 +68,7 @@ func check(t *testing.T, l api.Locale, right bool, what string, value any) {
 	switch {
 	case right && err != nil:
 		t.Errorf("P3: %s %.40q: %v", what, value, err)
-	case !right && (got != (Locale{}) || !errors.Is(err, api.ErrLocale)):
+	case !right && (!reflect.DeepEqual(got, Locale{}) || !errors.Is(err, api.ErrLocale)):
 		t.Errorf("P3: %s %.40q: %v, want ErrLocale and nothing beside it", what, value, err)
 	}
 }

@@ -1,4 +1,4 @@
-// Package number takes the texts of numbers apart (P2).
+// Package number takes the texts of numbers apart (P2) and takes offsets off them (P14).
 package number
 
 import (

@@ -97,6 +97,19 @@ func (s *scanner) value() (uint32, error) {
 	return v, nil
 }
 
+// IsName tells if a text is a name, wherever it stands.
+func IsName(text string) bool {
+	if text == "" || len(text) > api.MaxName || isDigit(rune(text[0])) {
+		return false
+	}
+	for _, c := range text {
+		if !isInName(c) {
+			return false
+		}
+	}
+	return true
+}
+
 func isBlank(c rune) bool { return c == ' ' || c == '\t' || c == '\n' || c == '\r' }
 
 func isDigit(c rune) bool { return '0' <= c && c <= '9' }

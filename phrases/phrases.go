@@ -7,10 +7,14 @@ import (
 	"phrases/number"
 	"phrases/pattern"
 	"phrases/plural"
+	"phrases/program"
 )
 
-// Program is what a pattern, or bytes, became in a locale.
-type Program struct{}
+// Program is what a pattern, or bytes, became in a locale. One that no call made, or nil, says nothing.
+type Program struct {
+	code program.Code
+	in   locale.Locale
+}
 
 // Number writes a number (P4).
 func Number(s string, l api.Locale) (string, error) {
@@ -88,13 +92,36 @@ func hand(a pattern.Argument, yield func(name string, at int) bool) (more bool, 
 }
 
 // Compile makes a program (P12).
-func Compile(p string, l api.Locale) (*Program, error) { return nil, nil }
+func Compile(p string, l api.Locale) (*Program, error) {
+	in, err := locale.New(l)
+	if err != nil {
+		return nil, err
+	}
+	m, err := pattern.New(p)
+	if err != nil {
+		return nil, err
+	}
+	return &Program{code: program.Compile(m), in: in}, nil
+}
 
 // Format says what a program makes of arguments (P13).
-func (x *Program) Format(args map[string]api.Value) (string, error) { return "", nil }
+func (x *Program) Format(args map[string]api.Value) (string, error) {
+	if err := program.Check(args); err != nil {
+		return "", err
+	}
+	return x.FormatBy(func(name string) (api.Value, bool) {
+		v, ok := args[name]
+		return v, ok
+	})
+}
 
 // FormatBy says what a program makes of what it asks for (P15).
-func (x *Program) FormatBy(get func(name string) (api.Value, bool)) (string, error) { return "", nil }
+func (x *Program) FormatBy(get func(name string) (api.Value, bool)) (string, error) {
+	if x == nil {
+		return "", nil
+	}
+	return x.code.Run(x.in, get)
+}
 
 // Save tells a program's bytes (P17).
 func (x *Program) Save() []byte { return nil }

@@ -8,7 +8,7 @@ import (
 	"phrases/number"
 )
 
-// amount is what an operand is of a number. The digits stay a text: they are up to thirty.
+// amount is what an operand is of a number. The digits stay a text: they are up to thirty, and one more where an offset was taken off.
 type amount struct {
 	digits string // ahead of the point; none, and noughts ahead of others, are allowed
 	broken bool   // it is not whole: behind the point stands more than noughts
@@ -48,7 +48,7 @@ func modulo(of operand, m uint64) operand {
 	}
 }
 
-// rest goes digit by digit, since thirty of them are too many for a word; m has so few that nothing wraps round.
+// rest goes digit by digit, since so many of them are too much for a word; m has so few that nothing wraps round.
 func rest(digits string, m uint64) uint64 {
 	var left uint64
 	for _, c := range digits {

@@ -2,6 +2,7 @@
 package plural
 
 import (
+	"slices"
 	"strings"
 
 	"phrases/api"
@@ -38,17 +39,14 @@ func New(list []api.Rule) (Rules, error) {
 	return rules, nil
 }
 
-// mayHaveRule: other has no rule, being what is left.
-func mayHaveRule(category string) bool {
-	switch category {
-	case "zero", "one", "two", "few", "many":
-		return true
-	}
-	return false
-}
+// Categories are all six, in the order in which programs have them.
+func Categories() []string { return []string{"zero", "one", "two", "few", "many", Other} }
 
 // IsCategory tells of all six words.
-func IsCategory(word string) bool { return word == Other || mayHaveRule(word) }
+func IsCategory(word string) bool { return slices.Contains(Categories(), word) }
+
+// mayHaveRule: other has no rule, being what is left.
+func mayHaveRule(word string) bool { return word != Other && IsCategory(word) }
 
 // conditionOf makes a function of what a rule has for its When.
 func conditionOf(when string) (condition, error) {
