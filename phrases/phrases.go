@@ -3,6 +3,7 @@ package phrases
 
 import (
 	"phrases/api"
+	"phrases/bytecode"
 	"phrases/locale"
 	"phrases/number"
 	"phrases/pattern"
@@ -12,8 +13,9 @@ import (
 
 // Program is what a pattern, or bytes, became in a locale. One that no call made, or nil, says nothing.
 type Program struct {
-	code program.Code
-	in   locale.Locale
+	code  program.Code
+	in    locale.Locale
+	bytes string // what it was loaded from; empty, if it was compiled
 }
 
 // Number writes a number (P4).
@@ -124,7 +126,25 @@ func (x *Program) FormatBy(get func(name string) (api.Value, bool)) (string, err
 }
 
 // Save tells a program's bytes (P17).
-func (x *Program) Save() []byte { return nil }
+func (x *Program) Save() []byte {
+	switch {
+	case x == nil || x.code == nil:
+		return nil
+	case x.bytes != "":
+		return []byte(x.bytes)
+	}
+	return bytecode.Write(x.code)
+}
 
 // Load makes a program of bytes (P17).
-func Load(b []byte, l api.Locale) (*Program, error) { return nil, nil }
+func Load(b []byte, l api.Locale) (*Program, error) {
+	in, err := locale.New(l)
+	if err != nil {
+		return nil, err
+	}
+	code, err := bytecode.Read(b)
+	if err != nil {
+		return nil, err
+	}
+	return &Program{code: code, in: in, bytes: string(b)}, nil
+}

@@ -39,23 +39,25 @@ func compiled(t *testing.T, p string, l api.Locale) *phrases.Program {
 	return x
 }
 
-// says holds all ways to ask a program against what it is to say, or its error.
+// says holds all ways to ask a program, and what it is loaded as, against what it is to say, or its error.
 func says(t *testing.T, p string, row []string, want string, e api.Errno) {
 	t.Helper()
-	x, args := compiled(t, p, english()), given(row...)
-	got, err := x.Format(args)
-	if got != want || e == api.OK && err != nil || e != api.OK && !isJust(err, e) {
-		t.Errorf("P13, P14: %q of %v: %q, %v, want %q, %d", p, row, got, err, want, e)
-	}
-	if !maps.Equal(args, given(row...)) {
-		t.Errorf("P1: %q wrote into its arguments %v: %v", p, row, args)
-	}
-	if got, err2, same := plain.Format(x, row); got != want || err2 != e || !same {
-		t.Errorf("P13, P14: plain: %q of %v: %q, %d, want %q, %d", p, row, got, err2, want, e)
-	}
-	got, err = x.FormatBy(by(args))
-	if got != want || e == api.OK && err != nil || e != api.OK && !isJust(err, e) {
-		t.Errorf("P15: %q of %v: %q, %v, want %q, %d", p, row, got, err, want, e)
+	for k, x := range both(t, p, english()) {
+		args := given(row...)
+		got, err := x.Format(args)
+		if got != want || e == api.OK && err != nil || e != api.OK && !isJust(err, e) {
+			t.Errorf("P13, P14, P17: program %d of %q of %v: %q, %v, want %q, %d", k, p, row, got, err, want, e)
+		}
+		if !maps.Equal(args, given(row...)) {
+			t.Errorf("P1: program %d of %q wrote into its arguments %v: %v", k, p, row, args)
+		}
+		if got, err2, same := plain.Format(x, row); got != want || err2 != e || !same {
+			t.Errorf("P13, P14, P17: plain: program %d of %q of %v: %q, %d, want %q, %d", k, p, row, got, err2, want, e)
+		}
+		got, err = x.FormatBy(by(args))
+		if got != want || e == api.OK && err != nil || e != api.OK && !isJust(err, e) {
+			t.Errorf("P15, P17: program %d of %q of %v: %q, %v, want %q, %d", k, p, row, got, err, want, e)
+		}
 	}
 }
 
@@ -152,15 +154,17 @@ func TestArgs(t *testing.T) {
 		given("x", "n", ""), given("x", "n", "a"), given("x", "n", "01"), given("x", "n", "-0"), given("x", "n", "-0.0"), given("x", "n", "1."), given("x", "n", "+1"), given("x", "n", "1,000"), given("x", "n", strings.Repeat("1", 31)), given("x", "n", strings.Repeat("1", 61)),
 	}
 	for _, p := range []string{"", "text", "{x}", "{x,number}", "{x,select,other{}}", "{missing}"} {
-		x := compiled(t, p, english())
+		programs := both(t, p, english())
 		for _, args := range wrong {
 			for _, n := range []int{0, 3, 15} {
 				more := maps.Clone(args)
 				for k := range n {
 					more["k"+strconv.Itoa(k)] = api.Value{}
 				}
-				if got, err := x.Format(more); got != "" || !isJust(err, api.ErrArgs) {
-					t.Errorf("P13: %q of %v: %q, %v, want ErrArgs and nothing beside it", p, args, got, err)
+				for _, x := range programs {
+					if got, err := x.Format(more); got != "" || !isJust(err, api.ErrArgs) {
+						t.Errorf("P13: %q of %v: %q, %v, want ErrArgs and nothing beside it", p, args, got, err)
+					}
 				}
 			}
 		}
@@ -243,6 +247,9 @@ func TestNoProgram(t *testing.T) {
 		if got, err := x.FormatBy(nil); got != "" || err != nil {
 			t.Errorf("P1: FormatBy: %q, %v", got, err)
 		}
+		if b := x.Save(); b != nil {
+			t.Errorf("P1: Save: %q", b)
+		}
 	}
 }
 
@@ -256,16 +263,25 @@ func TestLocaleOfProgram(t *testing.T) {
 		"1.50":      "\u0967,\u096b\u0966|\u0967,\u096b\u0966|zero #|\u0966,\u096b\u0966|other|x-1.5",
 		"1000.0001": "\u0967\u00a0\u0966\u0966\u0966,\u0966\u0966\u0966\u0967|\u0967\u00a0\u0966\u0966\u0966,\u0966\u0966\u0966\u0967|other #|\u096f\u096f\u096f,\u0966\u0966\u0966\u0967|other|x-1.5",
 	} {
-		if got, err := compiled(t, p, l).Format(given("n", "n", s, "s", "t", "x-1.5")); got != want || err != nil {
-			t.Errorf("P13, P4: of %s: %q, %v, want %q", s, got, err, want)
+		for _, x := range both(t, p, l) {
+			if got, err := x.Format(given("n", "n", s, "s", "t", "x-1.5")); got != want || err != nil {
+				t.Errorf("P13, P4: of %s: %q, %v, want %q", s, got, err, want)
+			}
 		}
 	}
 }
 
 // TestProgramStays: P1: no program changes by what is done later to what was handed in, or by being asked.
 func TestProgramStays(t *testing.T) {
-	l := english()
-	x := compiled(t, "{n,plural,one{A}two{C}other{B}}{n,selectordinal,one{D}two{E}other{F}}{n}", l)
+	for k := range 2 {
+		l := english()
+		x := both(t, "{n,plural,one{A}two{C}other{B}}{n,selectordinal,one{D}two{E}other{F}}{n}", l)[k]
+		stays(t, x, l)
+	}
+}
+
+// stays writes into the lists of the locale that a program was made for.
+func stays(t *testing.T, x *phrases.Program, l api.Locale) {
 	l.Cardinal[0] = api.Rule{Name: "two", When: "n = 1"}
 	for i := range l.Ordinal {
 		l.Ordinal[i] = api.Rule{}
@@ -294,16 +310,19 @@ func TestProgramStays(t *testing.T) {
 
 // TestTogether: programs keep nothing from call to call, so several may be asked at the same time.
 func TestTogether(t *testing.T) {
-	x := compiled(t, nobody, english())
+	programs := both(t, nobody, english())
 	var all sync.WaitGroup
 	for k := range 8 {
 		all.Add(1)
 		go func() {
 			defer all.Done()
-			s := strconv.Itoa(k + 3)
+			x, s := programs[k%2], strconv.Itoa(k+3)
 			for range 200 {
 				if got, err := x.Format(given("n", "n", s, "who", "t", "A")); got != "A and "+strconv.Itoa(k+2)+" others" || err != nil {
 					t.Errorf("P1: %q, %v", got, err)
+				}
+				if b := x.Save(); string(b) != string(programs[0].Save()) {
+					t.Errorf("P1: saved as %q", b)
 				}
 			}
 		}()
@@ -332,16 +351,23 @@ func TestAsks(t *testing.T) {
 		{[]string{"a", "t", "A", "n", "n", "2", "c", "n", "7", "s", "n", "z"}, "a n n c n n s", "", api.ErrArgs},
 		{[]string{"a", "t", "A", "n", "n", "2", "c", "n", "7", "s", "t", "x"}, "a n n c n n s d", "", api.ErrMissing},
 	} {
-		got, asked, e := plain.Ask(compiled(t, asking, english()), c.row, "")
-		if got != c.want || e != c.e || strings.Join(asked, " ") != c.asked {
-			t.Errorf("P15: of %q: %q, %d, asked %v, want %q, %d, asked %q", c.row, got, e, asked, c.want, c.e, c.asked)
+		for k, x := range both(t, asking, english()) {
+			got, asked, e := plain.Ask(x, c.row, "")
+			if got != c.want || e != c.e || strings.Join(asked, " ") != c.asked {
+				t.Errorf("P15, P17: program %d of %q: %q, %d, asked %v, want %q, %d, asked %q", k, c.row, got, e, asked, c.want, c.e, c.asked)
+			}
 		}
 	}
 }
 
 // TestAsksAgain: what is asked may answer otherwise each time, and each answer counts just where it was asked for.
 func TestAsksAgain(t *testing.T) {
-	x := compiled(t, "{n}{n,plural,=2{two #}other{{n}#{n,plural,offset:1 =5{five #}other{}}}}{n,number}", english())
+	for _, x := range both(t, "{n}{n,plural,=2{two #}other{{n}#{n,plural,offset:1 =5{five #}other{}}}}{n,number}", english()) {
+		asksAgain(t, x)
+	}
+}
+
+func asksAgain(t *testing.T, x *phrases.Program) {
 	k := 0
 	got, err := x.FormatBy(func(name string) (api.Value, bool) {
 		k++
@@ -368,9 +394,14 @@ func TestAsksAgain(t *testing.T) {
 
 // TestAsksPanics: whatever a function panics with, and at whichever call, ErrGet comes out, and nothing more is asked.
 func TestAsksPanics(t *testing.T) {
+	for _, x := range both(t, asking, english()) {
+		asksPanics(t, x)
+	}
+}
+
+func asksPanics(t *testing.T, x *phrases.Program) {
 	var none map[string]int
 	var list []int
-	x := compiled(t, asking, english())
 	names := strings.Fields("a n n c n n s e a")
 	args := given("a", "t", "A", "c", "t", "C", "n", "n", "2", "s", "t", "y", "e", "t", "")
 	for i, boom := range []func(){
@@ -405,8 +436,10 @@ func TestAsksPanics(t *testing.T) {
 		t.Errorf("P15: no function: %q, %v", got, err)
 	}
 	for _, p := range []string{"", "text", "'{x}'"} {
-		if got, err := compiled(t, p, english()).FormatBy(nil); got != strings.ReplaceAll(p, "'", "") || err != nil {
-			t.Errorf("P15: no function, and nothing to ask: %q, %v", got, err)
+		for _, y := range both(t, p, english()) {
+			if got, err := y.FormatBy(nil); got != strings.ReplaceAll(p, "'", "") || err != nil {
+				t.Errorf("P15: no function, and nothing to ask: %q, %v", got, err)
+			}
 		}
 	}
 	if got, err := x.FormatBy(by(args)); got != "A22C22A" || err != nil {
@@ -452,11 +485,15 @@ func TestProgramsEnd(t *testing.T) {
 		if e2, at2 := api.Tell(want); e != e2 || at != at2 || (x == nil) != (err != nil) {
 			t.Errorf("P12: Compile(%q): %v, %v, but Canon: %v", p, x, err, want)
 		}
+		var y *phrases.Program
+		if err == nil {
+			y = both(t, p, english())[1]
+		}
 		for _, args := range values {
 			a, first := x.Format(args)
-			b, again := x.FormatBy(by(args))
+			b, again := y.FormatBy(by(args))
 			if a != b || first != again || first != nil && a != "" {
-				t.Errorf("P1: %q of %v: %q, %v, then %q, %v", p, args, a, first, b, again)
+				t.Errorf("P1, P17: %q of %v: %q, %v, then, loaded, %q, %v", p, args, a, first, b, again)
 			}
 		}
 		if left > 0 {

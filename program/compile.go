@@ -23,10 +23,11 @@ func (b *builder) add(i Instruction) { b.code = append(b.code, i) }
 // here is the place of the instruction that comes next.
 func (b *builder) here() int { return len(b.code) }
 
-// hold keeps a place for an instruction whose target is not known yet.
-func (b *builder) hold() int {
+// hold keeps a place for an instruction whose target is not known yet, and tells what sets it there.
+func (b *builder) hold() func(Instruction) {
+	at := b.here()
 	b.add(nil)
-	return b.here() - 1
+	return func(i Instruction) { b.code[at] = i }
 }
 
 func (b *builder) message(m pattern.Message) {
@@ -62,7 +63,7 @@ func (s starts) of(word string) int {
 // branches sets the branches of an argument. All of them go on behind the last.
 func (b *builder) branches(list []pattern.Branch) starts {
 	begin := make(starts)
-	var ends []int
+	var ends []func(Instruction)
 	for _, branch := range list {
 		if len(begin) > 0 {
 			ends = append(ends, b.hold())
@@ -70,14 +71,14 @@ func (b *builder) branches(list []pattern.Branch) starts {
 		begin[branch.Selector] = b.here()
 		b.message(branch.Message)
 	}
-	for _, end := range ends {
-		b.code[end] = Jump{b.here()}
+	for _, set := range ends {
+		set(Jump{b.here()})
 	}
 	return begin
 }
 
 func (b *builder) byText(n pattern.Select) {
-	fork := b.hold()
+	set := b.hold()
 	begin := b.branches(n.List)
 	var cases []Case
 	for _, branch := range n.List {
@@ -85,28 +86,27 @@ func (b *builder) byText(n pattern.Select) {
 			cases = append(cases, Case{branch.Word, begin[branch.Selector]})
 		}
 	}
-	b.code[fork] = ByText{n.Name, cases, begin.of(plural.Other)}
+	set(ByText{n.Name, cases, begin.of(plural.Other)})
 }
 
 func (b *builder) byNumber(n pattern.Plural) {
 	b.add(Enter{n.Name, n.Offset})
-	var values []pattern.Selector
-	var forks []int
+	var equals []func(starts)
 	for _, branch := range n.List {
 		if branch.Word == "" {
-			values = append(values, branch.Selector)
-			forks = append(forks, b.hold())
+			set := b.hold()
+			equals = append(equals, func(begin starts) { set(IfEqual{branch.Value, begin[branch.Selector]}) })
 		}
 	}
-	fork := b.hold()
+	set := b.hold()
 	begin := b.branches(n.List)
-	for i, v := range values {
-		b.code[forks[i]] = IfEqual{v.Value, begin[v]}
+	for _, set := range equals {
+		set(begin)
 	}
 	by := ByCategory{Ordinal: n.Ordinal}
 	for i, category := range plural.Categories() {
 		by.Targets[i] = begin.of(category)
 	}
-	b.code[fork] = by
+	set(by)
 	b.add(Leave{})
 }
